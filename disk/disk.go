@@ -34,8 +34,7 @@ func (d *Disk) Append(name string, b []byte) api.Errno {
 	if err := d.refuse(name); err != api.OK {
 		return err
 	}
-	// Not used+len(b) > room: room may be the greatest number there is.
-	if len(b) > d.room-d.used {
+	if d.used+len(b) > d.room {
 		return api.ErrFull
 	}
 	add := func() {
